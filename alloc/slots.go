@@ -17,14 +17,14 @@ func mayBe(a api.Alloc) bool {
 	if !isMost(a.Most) || len(a.Slots) < firstTwo || len(a.Slots) > a.Most+firstTwo {
 		return false
 	}
-	dead := 0
+	reusable := 0
 	slotsMayBe := every(a.Slots, func(place int, s api.Slot) bool {
 		if usable(s) {
-			dead++
+			reusable++
 		}
 		return s.Gen >= 0 && s.Gen <= api.MaxGen && (place >= firstTwo || s == fresh)
 	})
-	return slotsMayBe && len(a.Free) == dead && freeOnce(a)
+	return slotsMayBe && len(a.Free) == reusable && freeOnce(a)
 }
 
 // freeOnce tells whether Free has only indexes that can be used again, none of them twice. If it has as many as there are, it has each.
