@@ -41,9 +41,27 @@ func Pair(relation, target int) (api.Id, api.Errno) {
 	return fields{head: headPair, high: relation, low: target}.join(), api.OK
 }
 
-// Kind tells of which kind an id is.
+// Kind tells of which kind an id is: whichever asks for what holds; no two of them do at once.
 func Kind(id api.Id) int {
-	for kind, holds := range asks(split(id)) {
+	f := split(id)
+	is := func(head int) bool { return f.head == head && f.spare == 0 }
+	// It stands here, where it is asked, since it needs no memory that way: each layer asks for kinds, id by id.
+	asks := [api.IdPattern + 1]func() bool{
+		api.IdNone: func() bool { return false }, // what is left when no other kind holds
+		api.IdEntity: func() bool {
+			return is(headEntity) && within(0, api.MaxGen, f.high) && within(1, api.MaxIndex, f.low)
+		},
+		api.IdComponent: func() bool {
+			return is(headComponent) && f.high == 0 && within(1, api.MaxComponent, f.low)
+		},
+		api.IdPair: func() bool {
+			return is(headPair) && within(1, api.MaxIndex, f.high, f.low)
+		},
+		api.IdPattern: func() bool {
+			return is(headPair) && within(0, api.MaxIndex, f.high, f.low) && !within(1, api.MaxIndex, f.high, f.low)
+		},
+	}
+	for kind, holds := range asks {
 		if holds() {
 			return kind
 		}
@@ -106,24 +124,4 @@ func split(id api.Id) fields {
 
 func (f fields) join() api.Id {
 	return api.Id(f.head)<<headShift | api.Id(f.high)<<highShift | api.Id(f.spare)<<fieldBits | api.Id(f.low)
-}
-
-// asks are, by kinds, what has to hold of the fields of an id of that kind; no two of them hold at once.
-func asks(f fields) [api.IdPattern + 1]func() bool {
-	is := func(head int) bool { return f.head == head && f.spare == 0 }
-	return [api.IdPattern + 1]func() bool{
-		api.IdNone: func() bool { return false }, // what is left when no other kind holds
-		api.IdEntity: func() bool {
-			return is(headEntity) && within(0, api.MaxGen, f.high) && within(1, api.MaxIndex, f.low)
-		},
-		api.IdComponent: func() bool {
-			return is(headComponent) && f.high == 0 && within(1, api.MaxComponent, f.low)
-		},
-		api.IdPair: func() bool {
-			return is(headPair) && within(1, api.MaxIndex, f.high, f.low)
-		},
-		api.IdPattern: func() bool {
-			return is(headPair) && within(0, api.MaxIndex, f.high, f.low) && !within(1, api.MaxIndex, f.high, f.low)
-		},
-	}
 }

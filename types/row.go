@@ -24,7 +24,8 @@ checking:
 
 // canBeHad tells whether the id is a component or a pair.
 func canBeHad(id api.Id) bool {
-	return ident.Kind(id) == api.IdComponent || isPair(id)
+	kind := ident.Kind(id)
+	return kind == api.IdComponent || kind == api.IdPair
 }
 
 func isPair(id api.Id) bool {
